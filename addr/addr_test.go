@@ -12,14 +12,14 @@ func TestParse(t *testing.T) {
 	for s, want := range map[string][]Addr{
 		"": nil, " \t": nil, "a@b": {{"", "a", "b"}}, "Ann <a@b>": {{"Ann", "a", "b"}}, " a @\tb , <c@d>": {{"", "a", "b"}, {"", "c", "d"}},
 		"\"A, \\\"B\" < a @ b > ,x@y": {{"A, \"B", "a", "b"}, {"", "x", "y"}}, "Ann  Lee\t<a@b>": {{"Ann  Lee", "a", "b"}}, "\"\"<a@b>": {{"", "a", "b"}},
-		"a@b (x) <c@d>": {{"a@b (x)", "c", "d"}}, "é\n<a@b>": {{"é\n", "a", "b"}}, "\" a \" <a@b>": {{" a ", "a", "b"}}, "a.b+c@[1.2];": {{"", "a.b+c", "[1.2];"}}, "<a@b>\t": {{"", "a", "b"}},
+		"a@b (x) <c@d>": {{"a@b (x)", "c", "d"}}, "é\n<a@b>": {{"é\n", "a", "b"}}, "\" a \" <a@b>": {{" a ", "a", "b"}}, "a@b, \"C\" <c@d>,\t\"D\"<e@f>": {{"", "a", "b"}, {"C", "c", "d"}, {"D", "e", "f"}}, "a.b+c@[1.2];": {{"", "a.b+c", "[1.2];"}}, "<a@b>\t": {{"", "a", "b"}},
 	} {
 		if got, err := Parse(s); !slices.Equal(got, want) || err != api.OK {
 			t.Errorf("P12.1: Parse(%q): %q, %d", s, got, err)
 		}
 	}
 	for _, s := range []string{
-		",", "a@b,", ",a@b", "a@b,,c@d", "a@b, ", "a", "@b", "a@", "a@b@c", "a b@c", "<a@b", "a@b>", "<>", "<a>", "<@>", "Ann <a@b> x", "Ann <a@b> <c@d>", "\"a\"@b", "\"a\" b <c@d>",
+		",", "a@b,", ",a@b", "a@b,,c@d", "a@b, ", "a", "@b", "a@", "a@b@c", "a b@c", "<a@b", "a@b>", "<>", "<a>", "<@>", "Ann <a@b> x", "Ann <a@b> <c@d>", "\"a\"@b", "\"a@b\"", "\"a@b\", c@d", "\"a\" b <c@d>",
 		"b \"a\" <c@d>", "\"a <c@d>", "\"a", "\"\\x\" <a@b>", "\"a\"", "(a)@b", "a@b(c)", "é@b", "a@é", "<a,b@c>", "<<a@b>>", "<a\"@b>", "a@b c@d", "Ann", "a\r@b", "<a@b\n>",
 	} {
 		if got, err := Parse(s); got != nil || err != api.EFORM {
@@ -33,7 +33,7 @@ func TestShow(t *testing.T) {
 		l    []Addr
 		want string
 	}{
-		{nil, ""}, {[]Addr{{"", "a", "b"}}, "a@b"}, {[]Addr{{"Ann Lee 2", "a", "b"}, {"", "c", "d"}}, "Ann Lee 2 <a@b>, c@d"}, {[]Addr{{"a  b", "a", "b"}}, "\"a  b\" <a@b>"},
+		{nil, ""}, {[]Addr{{"", "a", "b"}}, "a@b"}, {[]Addr{{"Ann Lee 2", "a", "b"}, {"", "c", "d"}}, "Ann Lee 2 <a@b>, c@d"}, {[]Addr{{"09 AZ az", "a", "b"}}, "09 AZ az <a@b>"}, {[]Addr{{"a[z", "a", "b"}}, "\"a[z\" <a@b>"}, {[]Addr{{"a  b", "a", "b"}}, "\"a  b\" <a@b>"},
 		{[]Addr{{" a", "a", "b"}}, "\" a\" <a@b>"}, {[]Addr{{"a ", "a", "b"}}, "\"a \" <a@b>"}, {[]Addr{{"a\"b", "a", "b"}}, "\"a\\\"b\" <a@b>"}, {[]Addr{{" ", "a", "b"}}, "\" \" <a@b>"},
 		{[]Addr{{"a.b", "a", "b"}}, "\"a.b\" <a@b>"}, {[]Addr{{"é", "a", "b"}}, ""}, {[]Addr{{"a", "", "b"}}, ""}, {[]Addr{{"a", "a", ""}}, ""}, {[]Addr{{"", "a b", "c"}}, ""}, {[]Addr{{"", "a", "b"}, {"", "a", "b@c"}}, ""},
 		{[]Addr{{"\n", "a", "b"}}, ""}, {[]Addr{{strings.Repeat(".", api.MaxLine+1), "a", "b"}}, ""}, {[]Addr{{"", "é", "b"}}, ""}, {[]Addr{{"a\tb", "a", "b"}}, "\"a\tb\" <a@b>"},

@@ -29,7 +29,7 @@ func text(c Cmd) string { return strings.TrimSuffix(c.Tag+"|"+c.Name+"|"+show(c.
 
 func TestParse(t *testing.T) {
 	for s, want := range map[string]string{
-		"a1 noop\r\n": "a1|NOOP", "A.]}[ x-Y/z{": "", "a select \"in \\\"b\\\\ox\"\r\n": "a|SELECT|'in \"b\\ox", "a b c (d (e) () \"f\") g\r\n": "a|B|c (d (e) () 'f) g", "a b {3}\r\nx\r\n\r\n": "a|B|'x\r\n",
+		"a1 noop\r\n": "a1|NOOP", "!~ a!z~AZ !~\r\n": "!~|A!Z~AZ|!~", "A.]}[ x-Y/z{": "", "a select \"in \\\"b\\\\ox\"\r\n": "a|SELECT|'in \"b\\ox", "a b c (d (e) () \"f\") g\r\n": "a|B|c (d (e) () 'f) g", "a b {3}\r\nx\r\n\r\n": "a|B|'x\r\n",
 		"a b {0}\r\n\r\n": "a|B|'", "a b {2+}\r\n\x00\xff ({01}\r\n))\r\n": "a|B|'\x00\xff (')" + ")", "a fetch 1 BODY[HEADER.FIELDS (A B)]<0.1>x\r\n": "a|FETCH|1 BODY[HEADER.FIELDS (A B)]<0.1>x",
 		"a b[ \x00\xff\"(] c\r\n": "a|B[ \x00\xff\"(]|c", "a b []]x\\%*}+\r\n": "a|B|[]]x\\%*}+", "]}[ b\r\n": "]}[|B", "a b \"\" {0000000001+}\r\nx\r\n": "a|B|' 'x", "a b [][(]\r\n": "a|B|[][(]", "a b \"\x7f\t\"\r\n": "a|B|'\x7f\t",
 		"a é\r\n": "", "a bé\r\n": "", "\u00e9 b\r\n": "", "a x[é]y\r\n": "a|X[é]Y",

@@ -70,7 +70,7 @@ func TestQuoted(t *testing.T) {
 	a75 := strings.Repeat("a", 75)
 	for s, want := range map[string]string{
 		"": "", "a=b": "a=3Db", "é\x00\x7f": "=C3=A9=00=7F", "a \r\n\tb\t": "a=20\r\n\tb=09", "a  \r\n": "a =20\r\n", "\r\n\n\r": "\r\n=0A=0D", " a": " a", " ": "=20", "\r\r\n": "=0D\r\n",
-		a75: a75, a75 + "\r\n": a75 + "\r\n", a75 + "b": a75 + "=\r\nb", a75[:73] + "=": a75[:73] + "=\r\n=3D", a75[:72] + "=": a75[:72] + "=3D", a75 + a75 + "a": a75 + "=\r\n" + a75 + "=\r\na",
+		a75: a75, a75 + "\r\n": a75 + "\r\n", a75[:60] + "\r\n" + a75: a75[:60] + "\r\n" + a75, a75 + "b": a75 + "=\r\nb", a75[:73] + "=": a75[:73] + "=\r\n=3D", a75[:72] + "=": a75[:72] + "=3D", a75 + a75 + "a": a75 + "=\r\n" + a75 + "=\r\na",
 		a75[:74] + " b": a75[:74] + " =\r\nb", a75 + " \r\n": a75 + "=\r\n=20\r\n", "~!": "~!",
 	} {
 		got := Quoted([]byte(s))
@@ -97,7 +97,7 @@ func TestQuoted(t *testing.T) {
 
 func TestFromQuoted(t *testing.T) {
 	for s, want := range map[string]string{
-		"=41=4a=4A": "AJJ", "=": "=", "=4": "=4", "=4g": "=4g", "==41": "=A", "a=\r\nb": "ab", "a=\nb": "a=\nb", "a \t\r\nb": "a\r\nb", "a \t": "a", " \r\n": "\r\n",
+		"=41=4a=4A=fF=09": "AJJ\xff\t", "=": "=", "=4": "=4", "=4g": "=4g", "==41": "=A", "a=\r\nb": "ab", "a=\nb": "a=\nb", "a \t\r\nb": "a\r\nb", "a \t": "a", " \r\n": "\r\n",
 		"a =\r\nb": "a b", "a= \r\nb": "a=\r\nb", "a=20\r\n": "a \r\n", "a \nb": "a \nb", "a \rb": "a \rb", "=\r\n": "", "=\r\n ": "", "=\r\n \r\n": "\r\n", "\xff": "\xff", "=\r": "=\r", "=3D=": "==",
 	} {
 		if got := FromQuoted([]byte(s)); string(got) != want {

@@ -90,6 +90,9 @@ func TestWriteReadFlush(t *testing.T) {
 	}
 	got, _ := d.Read(1)
 	got[0] = 'x'
+	if look(t, d) != "--aa--" {
+		t.Error("R4: Read shares the cache")
+	}
 	put(t, d, 1, 'b')
 	put(t, d, 2, 'c')
 	if look(t, d) != "--bbcc" || d.Unsafe() != 3 || d.Flush() != api.OK || d.Unsafe() != 0 {
@@ -114,7 +117,7 @@ func TestCrashKeepsAndTears(t *testing.T) {
 		want string
 	}{
 		{nil, -1, "oooo"}, {[]int{0}, -1, "aaoo"}, {[]int{2, 0, 0, -5, 99}, -1, "ccoo"}, {[]int{0}, 2, "caoo"},
-		{nil, 0, "aooo"}, {[]int{0}, 0, "aaoo"}, {[]int{1}, 3, "oodb"}, {[]int{3}, 1, "oodd"}, {nil, 4, "oooo"}, {[]int{0, 1, 2, 3}, -1, "ccdd"},
+		{nil, 0, "aooo"}, {[]int{0}, 0, "aaoo"}, {[]int{1}, 3, "oodb"}, {[]int{3}, 1, "oodd"}, {[]int{4}, 4, "oooo"}, {[]int{0, 1, 2, 3}, -1, "ccdd"},
 	} {
 		d := made(t, 2)
 		put(t, d, 0, 'o')

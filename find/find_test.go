@@ -61,7 +61,7 @@ func TestParse(t *testing.T) {
 		"unanswered UNDELETED undraft unflagged": `[3 text=\Answered][3 text=\Deleted][3 text=\Draft][3 text=\Flagged]`, "KEYWORD Abc unkeyword '\\seen": `[4 text=Abc][4 text=\Seen num=1]`,
 		"TO a cc 'b BCC ( ) ": "", "to a cc 'b bcc c SUBJECT '": "[5 name=to text=a][5 name=cc text=b][5 name=bcc text=c][5 name=subject]", "HEADER 'X-Y z header ' '": "[5 name=X-Y text=z][5]",
 		"body x TEXT NOT": "[6 text=x][6 text=NOT num=1]", "LARGER 007 smaller '5": "[7 num=7][7 name=< num=5]", "before 2-Jan-1970 ON '03-jan-1970 since 1-Jan-1970": "[8 name=< num=1][8 name== num=2][8 name=>]",
-		"uid 1:*,3 UID '5": "[9 set=1:*,3][9 set=5]", "1,2 *": "[10 set=1,2][10 set=*]", "not all": "[11[1]]", "OR all not 5": "[12[1][11[10 set=5]]]", "or or 1 2 or 3 4": "[12[12[10 set=1][10 set=2]][12[10 set=3][10 set=4]]]",
+		"uid 1:*,3 UID '5": "[9 set=1:*,3][9 set=5]", "1,2 *": "[10 set=1,2][10 set=*]", "9 10": "[10 set=9][10 set=10]", "not all": "[11[1]]", "OR all not 5": "[12[1][11[10 set=5]]]", "or or 1 2 or 3 4": "[12[12[10 set=1][10 set=2]][12[10 set=3][10 set=4]]]",
 		"(all (seen 1)) 2": `[13[1][13[2 text=\Seen][10 set=1]]][10 set=2]`, "x-gm-labels 'a X-GM-MSGID 5 x-gm-thrid '6": "[14 text=a][15 num=5][15 name=t num=6]", "NOT (all)": "[11[13[1]]]",
 	} {
 		k, err := Parse(words(s))
@@ -145,6 +145,10 @@ func TestIs(t *testing.T) {
 		if holdsFor(t, s, m) || !holdsFor(t, "not ("+s+")", m) {
 			t.Errorf("P22.1: %s holds", s)
 		}
+	}
+	m.Unix = 86400 * 2
+	if !holdsFor(t, "on 3-Jan-1970", m) {
+		t.Error("P22.1: the first second of a day")
 	}
 	n := strconv.Itoa(len(m.Body))
 	if holdsFor(t, "larger "+n, m) || holdsFor(t, "smaller "+n, m) {

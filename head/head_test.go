@@ -27,7 +27,7 @@ func TestFields(t *testing.T) {
 	}
 	for s, want := range map[string][]Field{
 		"": nil, "\r\na: b": nil, "a: b": {{"a", "b", 0, 4}}, "a:\r\n b": {{"a", "b", 0, 6}}, " a: b\r\n": nil, "é: b\r\n": nil, "a\x7f: b": nil, "::": nil,
-		"a: b\r\n \r\n\r\n c": {{"a", "b", 0, 9}}, "a:b\nc:d": {{"a", "b\nc:d", 0, 7}}, "a:b\rc": {{"a", "b\rc", 0, 5}}, "a\r\n": nil, "a :b": nil,
+		"a: b\r\n \r\n\r\n c": {{"a", "b", 0, 9}}, "a:b\nc:d": {{"a", "b\nc:d", 0, 7}}, "a:b\rc": {{"a", "b\rc", 0, 5}}, "a\r\n": nil, "abc": nil, "a :b": nil, "!~: b": {{"!~", "b", 0, 5}},
 	} {
 		if got := Fields([]byte(s)); !slices.Equal(got, want) {
 			t.Errorf("P11.1: Fields(%q): %v", s, got)

@@ -103,6 +103,10 @@ func TestEncodeLayout(t *testing.T) {
 	if err != api.OK || len(l) != 3 || l[0].Key != "ab" || string(l[0].Value) != "xyz" || l[0].Gone || l[1].Key != "c" || !l[1].Gone || l[2].Key != "d" {
 		t.Errorf("P7.1: Decode: %v, %d", l, err)
 	}
+	l[0].Value[0] = '?'
+	if string(got) != want {
+		t.Error("R4: Decode shares its argument")
+	}
 	if l, err := Decode(nil); len(l) != 0 || err != api.OK || len(Encode()) != 0 {
 		t.Error("P7.1: no Puts")
 	}
@@ -117,7 +121,7 @@ func TestEncodeLayout(t *testing.T) {
 func TestDecodeErrors(t *testing.T) {
 	long := strings.Repeat("k", api.MaxKey+1)
 	for i, s := range []string{
-		"\x02\x00\x01a", "\x00\x00\x00", "\x01\x00\x00\x00\x00\x00\x00", "\x00\x00\xc9" + long, "\x01\x00\x01a\x00\x03\x0d\x41" + strings.Repeat("v", api.MaxValue+1),
+		"\x02\x00\x01a", "\x02\x00\x01a\x00\x00\x00\x00", "\x00\x00\x00", "\x01\x00\x00\x00\x00\x00\x00", "\x00\x00\xc9" + long, "\x01\x00\x01a\x00\x03\x0d\x41" + strings.Repeat("v", api.MaxValue+1),
 		"\x01\x00\x01a\xff\xff\xff\xffx", "\x00\x00\x01a\x00",
 	} {
 		if l, err := Decode([]byte(s)); l != nil || err != api.EFORM {

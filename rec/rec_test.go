@@ -64,7 +64,7 @@ func TestGetErrors(t *testing.T) {
 		t.Errorf("P5.1: the length MaxValue: %d", err)
 	}
 	for _, l := range [][]byte{{0, 3, 13, 65}, {255, 255, 255, 255}} {
-		if _, _, err := Get(l); err != api.EFORM {
+		if r, n, err := Get(l); r.Num != 0 || n != 0 || err != api.EFORM {
 			t.Errorf("P5.1: the length %v: %d", l, err)
 		}
 	}

@@ -15,7 +15,7 @@ func same(x, y Spec) bool {
 
 func TestParse(t *testing.T) {
 	for s, want := range map[string]Spec{
-		"": {}, "1": {Path: []int{1}}, "1.200.3": {Path: []int{1, 200, 3}}, "header": {Kind: 1}, "Text": {Kind: 2}, "HEADER.FIELDS (TO cc)": {Kind: 3, Names: []string{"TO", "cc"}},
+		"": {}, "1": {Path: []int{1}}, "1.200.3": {Path: []int{1, 200, 3}}, "9.90": {Path: []int{9, 90}}, "header": {Kind: 1}, "Text": {Kind: 2}, "HEADER.FIELDS (TO cc)": {Kind: 3, Names: []string{"TO", "cc"}},
 		"header.fields.not (a)": {Kind: 4, Names: []string{"a"}}, "1.2.mime": {Path: []int{1, 2}, Kind: 5}, "header.fields (a a)": {Kind: 3, Names: []string{"a", "a"}}, "header.fields ([)": {Kind: 3, Names: []string{"["}},
 	} {
 		x, err := Parse(s)

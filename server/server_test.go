@@ -160,6 +160,8 @@ func TestLiterals(t *testing.T) {
 	send(t, v, 0, "")
 	send(t, v, 0, "\r\nd x {0}\r\n")
 	out(t, v, 0, "* OK ready|+ go|+ go|a OK LOGIN|+ go|b BAD BAD|+ go|c BAD BAD|+ go|")
+	send(t, v, 0, "\r\ne x {0}\r\n")
+	out(t, v, 0, "* OK ready|+ go|+ go|a OK LOGIN|+ go|b BAD BAD|+ go|c BAD BAD|+ go|d BAD BAD|+ go|")
 }
 
 func TestLogoutClosesSession(t *testing.T) {

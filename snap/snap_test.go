@@ -71,6 +71,9 @@ func TestEmptyLabel(t *testing.T) {
 	}
 	sync(t, s, label(5), true, "1 EXISTS")
 	check(t, s, 5)
+	s = Of(label(5))
+	sync(t, s, label(5), true, "")
+	sync(t, s, label(5, 6), true, "2 EXISTS")
 }
 
 func TestNumbers(t *testing.T) {

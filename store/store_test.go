@@ -185,7 +185,11 @@ func TestCompact(t *testing.T) {
 			good = append(good, o)
 		}
 	}
+	was := texts(good)
 	fewer := compact(good)
+	if texts(good) != was {
+		t.Error("P27.1: compact changes its argument")
+	}
 	size := func(ops []view.Op) (n int) {
 		for _, o := range ops {
 			n += len(view.Encode(o))
@@ -194,6 +198,34 @@ func TestCompact(t *testing.T) {
 	}
 	if !view.Same(replay(fewer), w) || size(fewer) >= size(good) {
 		t.Errorf("P27.1: compact: %d operations of %d bytes", len(fewer), size(fewer))
+	}
+}
+
+// texts writes operations as view.Encode does.
+func texts(ops []view.Op) string {
+	s := ""
+	for _, o := range ops {
+		s += string(view.Encode(o))
+	}
+	return s
+}
+
+func TestCompactLeavesOut(t *testing.T) {
+	flags := func(id int64, s string) view.Op {
+		return view.Op{Kind: 8, IDs: []int64{id}, Flags: flag.Set{L: []string{s}}}
+	}
+	full := view.Op{Kind: 1, Name: "All", Body: []byte("Message-ID: <a>\r\nSubject: s\r\n\r\nbody"), Unix: 5, Flags: flag.Set{L: []string{"x"}}}
+	bare := full
+	bare.Flags = flag.Set{}
+	gone := view.Op{Kind: 7, IDs: []int64{1}}
+	for i, c := range []struct{ ops, want []view.Op }{
+		{[]view.Op{full, flags(1, "y"), flags(1, "z")}, []view.Op{bare, flags(1, "z")}},
+		{[]view.Op{full, flags(1, "y"), full, gone, flags(2, "z")}, []view.Op{mailTo("All", "Message-ID: <a>\r\n\r\n"), bare, gone, flags(2, "z")}},
+		{[]view.Op{flags(1, "y"), full, flags(2, "y")}, []view.Op{flags(1, "y"), full, flags(2, "y")}},
+	} {
+		if got := compact(c.ops); texts(got) != texts(c.want) {
+			t.Errorf("P27.1: compact number %d: %v", i, got)
+		}
 	}
 }
 

@@ -105,6 +105,11 @@ func TestDeliverLimits(t *testing.T) {
 	refuse(t, w, mailTo("INBOX", ""), api.EEND)
 	must(t, w, mailTo("All", ""), api.MaxMails+1)
 	w = New()
+	must(t, w, Op{Kind: 10, Name: "All", Num: api.MaxUID}, api.MaxUID)
+	must(t, w, mailTo("INBOX", ""), 1)
+	check(t, w, "All/2/4294967296 4294967295:1;INBOX/1/2 1:1;")
+	refuse(t, w, mailTo("INBOX", ""), api.EEND)
+	w = New()
 	must(t, w, Op{Kind: 10, Name: "All", Num: api.MaxUID + 1}, api.MaxUID+1)
 	refuse(t, w, mailTo("INBOX", ""), api.EEND)
 	refuse(t, w, mailTo("All", ""), api.EEND)
@@ -388,6 +393,10 @@ func TestSameKnowsThreadsOfMessagesThatAreGone(t *testing.T) {
 		{gone("References: <a> <b>", "References: <a>"), gone("References: <b> <a>", "In-Reply-To: <b>"), true},
 		{gone("References: <a>", "References: <b>", "References: <a> <b>"), gone("References: <a> <b>", "", ""), true},
 		{gone("References: <a>", "References: <b>", "References: <a> <b>"), gone("References: <a>", "References: <b>", ""), false},
+		{gone("References: <a>", "References: <b> <d>", "References: <a> <b>"), gone("References: <a> <b> <d>", "", ""), true},
+		{gone("References: <a>", "References: <b> <d>", "References: <a> <b>"), gone("References: <a> <b>", "References: <d>", ""), false},
+		{gone("References: <a>", "References: <b>", "References: <c>", "References: <c> <b>"), gone("References: <a>", "References: <b> <c>", "", ""), true},
+		{gone("Message-ID: <a> <b>"), gone("Message-ID: <a>"), true},
 		{append(gone("Message-ID: <a>"), Op{Kind: 10, Name: "All", Num: api.MaxUID}), append(gone(""), Op{Kind: 10, Name: "All", Num: api.MaxUID}), false},
 		{append(gone("Message-ID: <a>"), Op{Kind: 10, Name: "All", Num: api.MaxUID + 1}), append(gone(""), Op{Kind: 10, Name: "All", Num: api.MaxUID + 1}), true},
 		{append(gone("", ""), Op{Kind: 10, Name: "All", Num: api.MaxUID + 1}), append(gone(""), Op{Kind: 10, Name: "All", Num: api.MaxUID + 1}), true},

@@ -108,6 +108,12 @@ func TestSpace(t *testing.T) {
 			if err := l.Keep(make([]byte, 150*sectors-64)); err != api.OK {
 				t.Errorf("P6.1: no space for a base on %d sectors: %d", sectors, err)
 			}
+			for l.Add(make([]byte, size)) == api.OK {
+			}
+			was = show(l)
+			if l.Keep(make([]byte, 512*sectors)) != api.EFULL || show(l) != was || l.Done() || show(open(t, d)) != was {
+				t.Errorf("P6.1: EFULL of Keep changes something on %d sectors", sectors)
+			}
 		}
 	}
 }
