@@ -85,33 +85,72 @@ func TestMore(t *testing.T) {
 	}
 }
 
+// TestLineLimit writes each line by how many bytes it has before its CRLF, which is not counted.
 func TestLineLimit(t *testing.T) {
 	fill := func(n int) string { return strings.Repeat("x", n) }
+	const m = api.MaxLine
 	for i, c := range []struct {
 		s    string
 		want api.Errno
 		n    int
 	}{
-		{"a " + fill(api.MaxLine-4) + "\r\n", api.OK, api.MaxLine},
-		{"a " + fill(api.MaxLine-3) + "\r\n", api.EMORE, 0},
-		{"a " + fill(api.MaxLine-3) + "\r\n\r\n", api.ELIMIT, api.MaxLine + 3},
-		{"a " + fill(api.MaxLine-2) + "\r\n", api.ELIMIT, api.MaxLine + 2},
-		{"a " + fill(api.MaxLine) + "\x00\r\n", api.ELIMIT, api.MaxLine + 5},
-		{"a " + fill(api.MaxLine-2) + "\x00\r\n", api.ELIMIT, api.MaxLine + 3},
-		{"a " + fill(api.MaxLine-3) + "\x00\r\n", api.EFORM, api.MaxLine + 2},
-		{"a b " + fill(api.MaxLine-9) + " {0}\r\n\r\n", api.ELIMIT, api.MaxLine + 3},
-		{"a b " + fill(api.MaxLine-10) + " {0}\r\n" + fill(3), api.EMORE, 0},
-		{"a b " + fill(api.MaxLine-10) + " {3}\r\n" + fill(3) + " " + fill(api.MaxLine-3) + "\r\n", api.OK, 2*api.MaxLine + 3},
-		{"a b " + fill(api.MaxLine-10) + " {3}\r\n" + fill(3) + " " + fill(api.MaxLine-2) + "\r\n\r\n", api.ELIMIT, 2*api.MaxLine + 6},
-		{"a " + fill(api.MaxLine-2), api.EMORE, 0},
-		{"a " + fill(api.MaxLine+9), api.EMORE, 0},
-		{"a b {12345678901" + fill(api.MaxLine) + "\r\n", api.EFORM, api.MaxLine + 18},
-		{"a b [" + fill(api.MaxLine-5) + "]\r\n", api.ELIMIT, api.MaxLine + 3},
-		{"a b \"" + fill(api.MaxLine-5) + "\"\r\n", api.ELIMIT, api.MaxLine + 3},
+		{"a " + fill(m-4) + "\r\n", api.OK, m}, {"a " + fill(m-3) + "\r\n", api.OK, m + 1}, {"a " + fill(m-2) + "\r\n", api.OK, m + 2}, {"a " + fill(m-2) + "\r\n\r\n", api.OK, m + 2},
+		{"a " + fill(m-1) + "\r\n", api.ELIMIT, m + 3}, {"a " + fill(m) + "\x00\r\n", api.ELIMIT, m + 5},
+		{"a " + fill(m-2), api.EMORE, 0}, {"a " + fill(m-2) + "\r", api.EMORE, 0}, {"a " + fill(m-1), api.EMORE, 0}, {"a " + fill(m+9), api.EMORE, 0}, {"a " + fill(m-2) + "\rx", api.EMORE, 0},
+		// A byte that does not fit, before the limit and at it.
+		{"a " + fill(m-3) + "\x00\r\n", api.EFORM, m + 2}, {"a " + fill(m-2) + "\x00\r\n", api.ELIMIT, m + 3}, {"a b {12345678901" + fill(m) + "\r\n", api.EFORM, m + 18},
+		// CR and LF around the limit that are no CRLF, or none behind which the line may end.
+		{"a " + fill(m-2) + "\rx\r\n", api.ELIMIT, m + 4}, {"a " + fill(m-2) + "\r\r\n", api.ELIMIT, m + 3}, {"a " + fill(m-2) + "\n\r\n", api.ELIMIT, m + 3}, {"a " + fill(m-3) + "\n\r\n", api.EFORM, m + 2},
+		{"a " + fill(m-3) + "\rx\r\n", api.ELIMIT, m + 3}, {"a " + fill(m-3) + "\r\r\n", api.EFORM, m + 2}, {"a " + fill(m-4) + "\rx\r\n", api.EFORM, m + 2},
+		{"a b [" + fill(m-5) + "\r\n", api.EFORM, m + 2}, {"a b \"" + fill(m-5) + "\r\n", api.EFORM, m + 2}, {"a b (" + fill(m-5) + "\r\n", api.EFORM, m + 2}, {"a " + fill(m-3) + " \r\n", api.EFORM, m + 2}, {fill(m) + "\r\n", api.EFORM, m + 2}, {"a b " + fill(m-6) + " {\r\n", api.EFORM, m + 2},
+		{"a b [" + fill(m-5) + "\rx\r\n", api.ELIMIT, m + 4}, {"a b {2" + fill(m) + "\r\n", api.EFORM, m + 8}, {"a b" + strings.Repeat(" x", 999) + " " + fill(m) + "\r\n", api.ELIMIT, m + 2004},
+		// Each kind of word at the end of the line.
+		{"a b [" + fill(m-6) + "]\r\n", api.OK, m + 2}, {"a b [" + fill(m-5) + "]\r\n", api.ELIMIT, m + 3}, {"a b \"" + fill(m-6) + "\"\r\n", api.OK, m + 2}, {"a b \"" + fill(m-5) + "\"\r\n", api.ELIMIT, m + 3}, {"a b (" + fill(m-6) + ")\r\n", api.OK, m + 2}, {"a b (" + fill(m-5) + ")\r\n", api.ELIMIT, m + 3},
+		// The line of a literal, and the one behind its bytes.
+		{"a b " + fill(m-8) + " {0}\r\n\r\n", api.OK, m + 4}, {"a b " + fill(m-9) + " {0+}\r\n\r\n", api.OK, m + 4}, {"a b " + fill(m-7) + " {0}\r\n\r\n", api.ELIMIT, m + 3}, {"a b " + fill(m-8) + " {0+}\r\n\r\n", api.ELIMIT, m + 3},
+		{"a b " + fill(m-8) + " {0}\r", api.EMORE, 0}, {"a b " + fill(m-8) + " {0}\rx\r\n", api.ELIMIT, m + 4}, {"a b " + fill(m-12) + " {65537}\r\n", api.ELIMIT, m + 2}, {"a b " + fill(m-10) + " {0}\r\n" + fill(3), api.EMORE, 0},
+		{"a b {2}\r\nyy " + fill(m-1) + "\r\n", api.OK, m + 13}, {"a b {2}\r\nyy " + fill(m) + "\r\n", api.ELIMIT, m + 14}, {"a b {2+}\r\n\r\n " + fill(m-1) + "\r\n", api.OK, m + 14},
+		{"a b " + fill(m-8) + " {3}\r\n" + fill(3) + " " + fill(m-1) + "\r\n", api.OK, 2*m + 7}, {"a b " + fill(m-8) + " {3}\r\n" + fill(3) + " " + fill(m) + "\r\n\r\n", api.ELIMIT, 2*m + 8},
 	} {
-		_, n, err := Parse([]byte(c.s))
-		if err != c.want || n != c.n {
+		cm, n, err := Parse([]byte(c.s))
+		if err != c.want || n != c.n || err != api.OK && (cm.Tag != "" || cm.Name != "" || cm.Args != nil) {
 			t.Errorf("P23.1: line number %d: %d, %d", i, n, err)
+		}
+		for k := max(0, n-6); k < n; k++ {
+			if _, n, err := Parse([]byte(c.s[:k])); n != 0 || err != api.EMORE {
+				t.Errorf("P23.2: the first %d bytes of line number %d: %d, %d", k, i, n, err)
+			}
+		}
+	}
+}
+
+func TestWantsAtTheLineLimit(t *testing.T) {
+	line := func(n int, end string) []byte {
+		return []byte("a b " + strings.Repeat("x", n-4-len(end)) + end + "\r\n")
+	}
+	if !Wants(line(api.MaxLine, " {2}")) || Wants(line(api.MaxLine, " {2+}")) {
+		t.Error("P23.1: Wants behind a line of MaxLine bytes")
+	}
+	if Wants(line(api.MaxLine+1, " {2}")) {
+		t.Error("P23.1: Wants behind a line of more than MaxLine bytes")
+	}
+}
+
+func TestShowAtTheLineLimit(t *testing.T) {
+	x := func(n int) string { return strings.Repeat("x", n) }
+	q := func(s string) find.Word { return find.Word{Text: s, Quoted: true} }
+	zero := q("\x00")
+	for i, c := range []struct {
+		args []find.Word
+		want int
+	}{
+		{[]find.Word{q(x(api.MaxLine - 6))}, api.MaxLine + 2}, {[]find.Word{q(x(api.MaxLine - 5))}, 0}, {[]find.Word{q(x(api.MaxLine))}, 0}, {[]find.Word{q(x(api.MaxLine + 1))}, api.MaxLine + 16},
+		{[]find.Word{{Text: x(api.MaxLine - 4)}}, api.MaxLine + 2}, {[]find.Word{{Text: x(api.MaxLine - 3)}}, 0},
+		{[]find.Word{q(x(api.MaxLine - 11)), zero}, api.MaxLine + 5}, {[]find.Word{q(x(api.MaxLine - 10)), zero}, 0},
+		{[]find.Word{zero, q(x(api.MaxLine - 3))}, api.MaxLine + 13}, {[]find.Word{zero, q(x(api.MaxLine - 2))}, 0},
+	} {
+		if got := Show(Cmd{"a", "B", c.args}); len(got) != c.want {
+			t.Errorf("P23.1: Show at the limit of a line, number %d: %d bytes, not %d", i, len(got), c.want)
 		}
 	}
 }
@@ -187,7 +226,7 @@ func TestShow(t *testing.T) {
 		{Cmd{"", "B", nil}, ""}, {Cmd{"a b", "B", nil}, ""}, {Cmd{"a", "", nil}, ""}, {Cmd{"a", "b", nil}, ""}, {Cmd{"a", "B C", nil}, ""}, {Cmd{"a+", "B", nil}, ""}, {Cmd{"a", "B", []find.Word{p("")}}, ""}, {Cmd{"a", "B", []find.Word{p("c d")}}, ""},
 		{Cmd{"a", "B", []find.Word{p("\"c\"")}}, ""}, {Cmd{"a", "B", []find.Word{p("(c)")}}, ""}, {Cmd{"a", "B", []find.Word{p("{1+}\r\nx")}}, ""}, {Cmd{"a", "B", []find.Word{p("c\r\n")}}, ""}, {Cmd{"a\r\n", "B", nil}, ""},
 		{Cmd{"a", "B", []find.Word{{Text: "x", IsList: true}}}, ""}, {Cmd{"a", "B", []find.Word{{Quoted: true, IsList: true}}}, ""}, {Cmd{"a", "B", []find.Word{{Text: "x", List: []find.Word{p("y")}}}}, ""}, {Cmd{"a", "B", []find.Word{q(strings.Repeat("\x00", api.MaxLiteral+1))}}, ""},
-		{Cmd{"a", "B", []find.Word{q(strings.Repeat("x", api.MaxLine-8))}}, "a B \"" + strings.Repeat("x", api.MaxLine-8) + "\"\r\n"}, {Cmd{"a", "B", []find.Word{q(strings.Repeat("x", api.MaxLine-7))}}, ""}, {Cmd{"a", "B", make([]find.Word, 1000)}, ""},
+		{Cmd{"a", "B", []find.Word{q(strings.Repeat("x", api.MaxLine-6))}}, "a B \"" + strings.Repeat("x", api.MaxLine-6) + "\"\r\n"}, {Cmd{"a", "B", []find.Word{q(strings.Repeat("x", api.MaxLine-5))}}, ""}, {Cmd{"a", "B", make([]find.Word, 1000)}, ""},
 		{Cmd{"a", "B", []find.Word{l(p("c)"))}}, ""}, {Cmd{"a", "B", []find.Word{p("[x")}}, ""}, {Cmd{"a", "(B)", nil}, ""},
 	} {
 		got := Show(c.c)

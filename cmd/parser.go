@@ -267,10 +267,20 @@ func (p *parser) look() (byte, api.Errno) {
 	if p.at == len(p.b) {
 		return 0, api.EMORE
 	}
-	if p.at-p.line >= api.MaxLine {
+	if p.at-p.line >= api.MaxLine && !p.ending() {
 		return 0, api.ELIMIT
 	}
 	return p.b[p.at], api.OK
+}
+
+// ending tells whether the next byte belongs to a CRLF, which is not counted among the bytes of its line.
+// A CR that nothing has followed yet is taken for one, as its LF may still arrive.
+func (p *parser) ending() bool {
+	if p.b[p.at] == '\n' {
+		return p.b[p.at-1] == '\r'
+	}
+	next := p.b[p.at:min(p.at+len(crlf), len(p.b))]
+	return strings.HasPrefix(crlf, string(next))
 }
 
 func visible(c byte) bool { return 33 <= c && c <= 126 }

@@ -129,6 +129,21 @@ func TestStepsOfOneChunk(t *testing.T) {
 	out(t, v, 0, "* OK ready|a OK NOOP|b OK NOOP|c OK NOOP|")
 }
 
+// TestLongestLine sends a line of as many bytes as may be, the CRLF behind it byte by byte, and then a longer one.
+func TestLongestLine(t *testing.T) {
+	v := server(t, 1, 100)
+	do(t, v, Act{}, api.OK)
+	tag := strings.Repeat("x", api.MaxLine-len(" noop"))
+	for _, chunk := range []string{tag + " noop", "\r", "\n"} {
+		send(t, v, 0, chunk)
+	}
+	out(t, v, 0, "* OK ready|"+tag+" OK NOOP|")
+	for _, chunk := range []string{"x" + tag, " noop", "\r", "\n"} {
+		send(t, v, 0, chunk)
+	}
+	out(t, v, 0, "* OK ready|"+tag+" OK NOOP|* BAD|")
+}
+
 func TestFaultyCommands(t *testing.T) {
 	v := server(t, 1, 100)
 	do(t, v, Act{}, api.OK)
