@@ -55,7 +55,9 @@ func (p *parser) tag() (string, api.Errno) {
 	if p.at == 0 {
 		return "", api.EFORM
 	}
-	return string(p.b[:p.at]), p.expect(' ')
+	// Go does not order the reading of at among calls, and expect moves it.
+	text := string(p.b[:p.at])
+	return text, p.expect(' ')
 }
 
 // name reads the first word, which must be plain.
